@@ -1,0 +1,45 @@
+package tally
+
+const (
+	maxKey     = 65535
+	maxValue   = 20  // bytes
+	maxEntries = 200 // of a call
+)
+
+// checkTable answers the error of Root that is named first: hence a pass over the whole list for each of them.
+func checkTable(table []Entry) Errno {
+	if len(table) > maxEntries {
+		return ErrMany
+	}
+	if e := checkKeys(keysOf(table)); e != OK {
+		return e
+	}
+	for _, entry := range table {
+		if entry.Value == "" || len(entry.Value) > maxValue {
+			return ErrValue
+		}
+	}
+	return OK
+}
+
+func keysOf(entries []Entry) []int {
+	keys := make([]int, len(entries))
+	for i, entry := range entries {
+		keys[i] = entry.Key
+	}
+	return keys
+}
+
+func checkKeys(keys []int) Errno {
+	for _, key := range keys {
+		if key < 0 || key > maxKey {
+			return ErrKey
+		}
+	}
+	for i := 1; i < len(keys); i++ {
+		if keys[i] <= keys[i-1] {
+			return ErrOrder
+		}
+	}
+	return OK
+}

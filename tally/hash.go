@@ -1,0 +1,139 @@
+package tally
+
+import "math/bits"
+
+const (
+	blockSize  = 64 // bytes
+	lengthSize = 8  // bytes at the end of the last block
+	roundCount = 64
+)
+
+// hashState is what H carries from block to block: an array, so that handing it on copies it.
+type hashState [8]uint32
+
+type hashConstants struct {
+	start  hashState
+	rounds [roundCount]uint32
+}
+
+// constants are those of FIPS 180-4. They follow from the first primes, so init reckons them instead of 72 numbers standing here that nobody can check by eye.
+var constants hashConstants
+
+func init() {
+	found := 0
+	for n := uint64(2); found < roundCount; n++ {
+		if !isPrime(n) {
+			continue
+		}
+		if found < len(constants.start) {
+			constants.start[found] = rootFraction(func(x uint64) bool { return squareIsBelow(x, n) })
+		}
+		constants.rounds[found] = rootFraction(func(x uint64) bool { return cubeIsBelow(x, n) })
+		found++
+	}
+}
+
+func isPrime(n uint64) bool {
+	for d := uint64(2); d*d <= n; d++ {
+		if n%d == 0 {
+			return false
+		}
+	}
+	return n >= 2
+}
+
+// rootFraction finds the first 32 bits behind the point of a root below 8, in whole numbers, so that no rounding of floats can touch them. isBelow tells of x whether x / 2^32 is below the root.
+func rootFraction(isBelow func(x uint64) bool) uint32 {
+	root := uint64(0)
+	for bit := uint64(1) << 34; bit > 0; bit >>= 1 {
+		if isBelow(root | bit) {
+			root |= bit
+		}
+	}
+	return uint32(root)
+}
+
+// squareIsBelow tells whether x*x < n * 2^64: the lower word of the square can't matter, as that of the bound is 0.
+func squareIsBelow(x, n uint64) bool {
+	high, _ := bits.Mul64(x, x)
+	return high < n
+}
+
+// cubeIsBelow tells whether x*x*x < n * 2^96, for x below 2^35: that keeps the cube within two words.
+func cubeIsBelow(x, n uint64) bool {
+	high, low := bits.Mul64(x, x)
+	carry, _ := bits.Mul64(low, x)
+	return high*x+carry < n<<32
+}
+
+// Hash is SHA-256 (P2).
+func Hash(text string) Sum {
+	state := constants.start
+	rest := text
+	for ; len(rest) >= blockSize; rest = rest[blockSize:] {
+		state = mixBlock(state, rest[:blockSize])
+	}
+	for end := padded(rest, len(text)); end != ""; end = end[blockSize:] {
+		state = mixBlock(state, end[:blockSize])
+	}
+	return sumOfState(state)
+}
+
+// padded fills the last bytes of a text up to whole blocks: only they are copied, however long the text is.
+func padded(rest string, length int) string {
+	size := blockSize
+	if len(rest)+1+lengthSize > blockSize {
+		size = 2 * blockSize
+	}
+	end := make([]byte, size)
+	copy(end, rest)
+	end[len(rest)] = 0x80
+	bitCount := uint64(length) * 8
+	for i := range lengthSize {
+		end[size-1-i] = byte(bitCount >> (8 * i))
+	}
+	return string(end)
+}
+
+// mixBlock keeps the letters of FIPS 180-4, to be held against it line by line.
+func mixBlock(state hashState, block string) hashState {
+	words := spreadBlock(block)
+	a, b, c, d := state[0], state[1], state[2], state[3]
+	e, f, g, h := state[4], state[5], state[6], state[7]
+	for i := range roundCount {
+		t1 := h + (turnRight(e, 6) ^ turnRight(e, 11) ^ turnRight(e, 25)) + (e&f ^ ^e&g) + constants.rounds[i] + words[i]
+		t2 := (turnRight(a, 2) ^ turnRight(a, 13) ^ turnRight(a, 22)) + (a&b ^ a&c ^ b&c)
+		a, b, c, d, e, f, g, h = t1+t2, a, b, c, d+t1, e, f, g
+	}
+	return hashState{state[0] + a, state[1] + b, state[2] + c, state[3] + d, state[4] + e, state[5] + f, state[6] + g, state[7] + h}
+}
+
+// spreadBlock makes a word for each round out of the block's sixteen.
+func spreadBlock(block string) [roundCount]uint32 {
+	var words [roundCount]uint32
+	for i := range 16 {
+		words[i] = uint32(block[4*i])<<24 | uint32(block[4*i+1])<<16 | uint32(block[4*i+2])<<8 | uint32(block[4*i+3])
+	}
+	for i := 16; i < roundCount; i++ {
+		far, near := words[i-15], words[i-2]
+		small := turnRight(far, 7) ^ turnRight(far, 18) ^ far>>3
+		great := turnRight(near, 17) ^ turnRight(near, 19) ^ near>>10
+		words[i] = words[i-16] + small + words[i-7] + great
+	}
+	return words
+}
+
+func turnRight(word uint32, by int) uint32 {
+	return bits.RotateLeft32(word, -by)
+}
+
+func sumOfState(state hashState) Sum {
+	var sum Sum
+	for i, word := range state {
+		sum[4*i] = byte(word >> 24)
+		sum[4*i+1] = byte(word >> 16)
+		sum[4*i+2] = byte(word >> 8)
+		sum[4*i+3] = byte(word)
+	}
+	return sum
+}

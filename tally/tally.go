@@ -1,0 +1,59 @@
+// Package tally: a table whose content can be proved by one short sum: see DOC.md.
+package tally
+
+// Errno is what a call answers: OK or the reason for a refusal.
+type Errno int
+
+const (
+	OK         Errno = 0
+	ErrKey     Errno = 1 // no key
+	ErrOrder   Errno = 2 // keys that do not rise
+	ErrValue   Errno = 3 // no value
+	ErrMany    Errno = 4 // too many
+	ErrVersion Errno = 5 // no version
+	ErrProof   Errno = 6 // no proof of it
+)
+
+// Sum is SHA-256 of something.
+type Sum [32]byte
+
+// Entry is a key and its value.
+type Entry struct {
+	Key   int
+	Value string
+}
+
+// Book is tables by versions. Make it by New.
+type Book struct{}
+
+// Root is a table's sum (P2).
+func Root(table []Entry) (Sum, Errno) {
+	if e := checkTable(table); e != OK {
+		return Sum{}, e
+	}
+	return sumOf(plant(table, allKeys())), OK
+}
+
+// Prove proves what a table has at some keys (P3).
+func Prove(table []Entry, keys []int) (string, Errno) { return "", 0 }
+
+// Verify tells whether a proof shows some values (P4).
+func Verify(root Sum, proof string, keys []int, values []string) bool { return false }
+
+// Update reckons the sum behind changes (P5).
+func Update(root Sum, proof string, changes []Entry) (Sum, Errno) { return Sum{}, 0 }
+
+// New makes a book (P6).
+func New() *Book { return nil }
+
+// Set makes the next version (P6).
+func (b *Book) Set(changes ...Entry) (int, Errno) { return 0, 0 }
+
+// Get tells a value (P6).
+func (b *Book) Get(version int, key int) (string, Errno) { return "", 0 }
+
+// Root tells a version's sum (P6).
+func (b *Book) Root(version int) (Sum, Errno) { return Sum{}, 0 }
+
+// Prove proves what a version has (P6).
+func (b *Book) Prove(version int, keys ...int) (string, Errno) { return "", 0 }
