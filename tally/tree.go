@@ -2,8 +2,8 @@ package tally
 
 import "sync"
 
-// manyKeys is from how many keys on the halves of a range are summed at the same time: with fewer, starting a goroutine costs more than it saves.
-const manyKeys = 16
+// manyKeys is from how many keys on the halves of a range are summed at the same time: measured with 200 keys, lower bounds made Root slower, as the goroutines then have too little to do each.
+const manyKeys = 32
 
 // node is a node of the tree: a bare, a leaf or a *branch, by how many keys the table has in its range.
 type node interface {
