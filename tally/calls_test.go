@@ -1,7 +1,9 @@
 package tally
 
 import (
+	"fmt"
 	"math"
+	"math/rand"
 	"runtime"
 	"strings"
 	"sync"
@@ -16,14 +18,26 @@ func TestNumbersOfErrors(t *testing.T) {
 	}
 }
 
+// callsOn is what the calls answer of a table, in one text; want, what they must answer by the document's words.
+func callsOn(table []Entry, keys []int, changes []Entry) (got, want string) {
+	root, e1 := Root(table)
+	proof, e2 := Prove(table, keys)
+	isProof := Verify(root, proof, keys, valuesIn(table, keys))
+	behind, e3 := Update(root, proof, changes)
+	got = fmt.Sprintf("%x %d %x %d %v %x %d", root, e1, proof, e2, isProof, behind, e3)
+	want = fmt.Sprintf("%x 0 %x 0 true %x 0", wantedSum(table, 0, maxKey), wantedProof(table, keys, 0, maxKey), wantedSum(tableBehind(table, changes), 0, maxKey))
+	return got, want
+}
+
 func TestAnswersHangOnNoSchedule(t *testing.T) {
 	table := evenTable(0, 300, maxEntries)
-	want := wantedSum(table, 0, maxKey)
+	keys := []int{0, 299, 600, 30000, maxKey}
+	changes := []Entry{{0, ""}, {299, "a"}, {600, "b"}, {30000, ""}, {maxKey, "c"}}
 	for _, processors := range []int{1, 2, 8} {
 		before := runtime.GOMAXPROCS(processors)
-		for range 50 {
-			if sum, e := Root(table); sum != want || e != OK {
-				t.Errorf("P1: Root on %d processors = %x, %d, want %x", processors, sum, e, want)
+		for range 20 {
+			if got, want := callsOn(table, keys, changes); got != want {
+				t.Errorf("P1: on %d processors the calls answer %s, want %s", processors, got, want)
 			}
 		}
 		runtime.GOMAXPROCS(before)
@@ -33,18 +47,17 @@ func TestAnswersHangOnNoSchedule(t *testing.T) {
 // The calls run beside each other on lists of their own and on one that they share.
 func TestCallsAtTheSameTime(t *testing.T) {
 	shared := evenTable(7, 200, maxEntries)
-	wantShared := wantedSum(shared, 0, maxKey)
 	var callers sync.WaitGroup
 	for i := range 16 {
 		callers.Go(func() {
 			own := evenTable(i, 100+i, maxEntries)
-			want := wantedSum(own, 0, maxKey)
-			for range 10 {
-				if sum, _ := Root(own); sum != want {
-					t.Errorf("P1: Root of caller %d's list = %x, want %x", i, sum, want)
-				}
-				if sum, _ := Root(shared); sum != wantShared {
-					t.Errorf("P1: Root of the shared list = %x, want %x", sum, wantShared)
+			keys := []int{i, 5000 + i, 40000}
+			changes := []Entry{{i, ""}, {5000 + i, "a"}, {40000, "b"}}
+			for range 5 {
+				for _, table := range [][]Entry{own, shared} {
+					if got, want := callsOn(table, keys, changes); got != want {
+						t.Errorf("P1: caller %d is answered %s, want %s", i, got, want)
+					}
 				}
 				if sum := Hash("abc"); sum[0] != 0xba || sum[31] != 0xad {
 					t.Errorf("P1: Hash beside other calls = %x", sum)
@@ -58,11 +71,15 @@ func TestCallsAtTheSameTime(t *testing.T) {
 // An error leaves nothing behind that a later answer could hang on.
 func TestAnswersHangOnNoEarlierCall(t *testing.T) {
 	table := []Entry{{1, "a"}, {2, "b"}}
-	want := wantedSum(table, 0, maxKey)
+	keys, changes := []int{1, 3}, []Entry{{1, ""}, {3, "c"}}
 	for _, between := range [][]Entry{nil, {{1, "c"}}, {{-1, ""}}, {{2, "b"}, {1, "a"}}, {{1, ""}}, evenTable(0, 1, maxEntries+1)} {
 		Root(between)
-		if sum, e := Root(table); sum != want || e != OK {
-			t.Errorf("P1: Root behind Root of %s = %x, %d, want %x", brief(between), sum, e, want)
+		Prove(between, keysOf(between))
+		Prove(table, keysOf(between))
+		Verify(Sum{}, "\x05\x05", keysOf(between), nil)
+		Update(Sum{}, "\x03", between)
+		if got, want := callsOn(table, keys, changes); got != want {
+			t.Errorf("P1: behind calls with %s the calls answer %s, want %s", brief(between), got, want)
 		}
 	}
 }
@@ -91,5 +108,33 @@ func TestNoListOrNumberPanics(t *testing.T) {
 		book.Get(key, key)
 		book.Root(key)
 		book.Prove(key, key)
+	}
+}
+
+func TestNoTextPanics(t *testing.T) {
+	source := rand.New(rand.NewSource(9))
+	texts := []string{"", strings.Repeat("\x05", 1<<20), strings.Repeat("\x00", 1<<20), strings.Repeat("\x05\x00", 40), strings.Repeat("\x05\x03", 40), strings.Repeat("\xff", 1000)}
+	for range 20000 {
+		text := make([]byte, source.Intn(80))
+		for i := range text {
+			text[i] = byte(source.Intn(7))
+		}
+		texts = append(texts, string(text))
+	}
+	root := wantedLeaf(Entry{1, "a"})
+	for _, text := range texts {
+		for _, keys := range [][]int{nil, {0}, {0, 1}, {maxKey}} {
+			values := make([]string, len(keys))
+			if Verify(root, text, keys, values) {
+				t.Errorf("P4: Verify(.., %x, %v, %q) = true", text, keys, values)
+			}
+			changes := make([]Entry, len(keys))
+			for i, key := range keys {
+				changes[i] = Entry{key, "b"}
+			}
+			if sum, e := Update(root, text, changes); sum != (Sum{}) || e != ErrProof {
+				t.Errorf("P5: Update(.., %x, %v) = %x, %d, want zeros, 6", text, changes, sum, e)
+			}
+		}
 	}
 }

@@ -4,6 +4,7 @@ const (
 	maxKey     = 65535
 	maxValue   = 20  // bytes
 	maxEntries = 200 // of a call
+	maxKeys    = 20  // of a proof
 )
 
 // checkTable answers the error of Root that is named first: hence a pass over the whole list for each of them.
@@ -20,6 +21,29 @@ func checkTable(table []Entry) Errno {
 		}
 	}
 	return OK
+}
+
+// checkChanges lets empty values pass: they take keys out.
+func checkChanges(changes []Entry, most int) Errno {
+	if len(changes) > most {
+		return ErrMany
+	}
+	if e := checkKeys(keysOf(changes)); e != OK {
+		return e
+	}
+	for _, change := range changes {
+		if len(change.Value) > maxValue {
+			return ErrValue
+		}
+	}
+	return OK
+}
+
+func checkProofKeys(keys []int) Errno {
+	if len(keys) > maxKeys {
+		return ErrMany
+	}
+	return checkKeys(keys)
 }
 
 func keysOf(entries []Entry) []int {

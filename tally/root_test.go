@@ -69,10 +69,8 @@ func evenTable(first, step, count int) []Entry {
 }
 
 func randomTable(source *rand.Rand, count, highest int) []Entry {
-	keys := source.Perm(highest + 1)[:count]
-	slices.Sort(keys)
 	table := make([]Entry, count)
-	for i, key := range keys {
+	for i, key := range randomKeys(source, count, highest) {
 		value := make([]byte, 1+source.Intn(maxValue))
 		source.Read(value)
 		table[i] = Entry{Key: key, Value: string(value)}

@@ -35,13 +35,54 @@ func Root(table []Entry) (Sum, Errno) {
 }
 
 // Prove proves what a table has at some keys (P3).
-func Prove(table []Entry, keys []int) (string, Errno) { return "", 0 }
+func Prove(table []Entry, keys []int) (string, Errno) {
+	if e := checkTable(table); e != OK {
+		return "", e
+	}
+	if e := checkProofKeys(keys); e != OK {
+		return "", e
+	}
+	tree := plant(table, allKeys())
+	return string(tellNode(nil, tree, allKeys(), setOf(keys))), OK
+}
 
 // Verify tells whether a proof shows some values (P4).
-func Verify(root Sum, proof string, keys []int, values []string) bool { return false }
+func Verify(root Sum, proof string, keys []int, values []string) bool {
+	if checkProofKeys(keys) != OK || len(values) != len(keys) {
+		return false
+	}
+	tree, ok := provenTree(root, proof, keys)
+	return ok && tellsValues(tree, keys, values)
+}
+
+// provenTree is the tree that a proof of these keys tells, if root comes from it.
+func provenTree(root Sum, proof string, keys []int) (node, bool) {
+	tree, ok := readProof(proof, keys)
+	return tree, ok && sumOf(tree) == root
+}
+
+func tellsValues(tree node, keys []int, values []string) bool {
+	for i, key := range keys {
+		if valueAt(tree, allKeys(), key) != values[i] {
+			return false
+		}
+	}
+	return true
+}
 
 // Update reckons the sum behind changes (P5).
-func Update(root Sum, proof string, changes []Entry) (Sum, Errno) { return Sum{}, 0 }
+func Update(root Sum, proof string, changes []Entry) (Sum, Errno) {
+	if e := checkChanges(changes, maxKeys); e != OK {
+		return Sum{}, e
+	}
+	keys := keysOf(changes)
+	tree, ok := provenTree(root, proof, keys)
+	if !ok {
+		return Sum{}, ErrProof
+	}
+	entries := changed(toldEntries(nil, tree), changes)
+	return sumOf(regrow(tree, allKeys(), setOf(keys), entries)), OK
+}
 
 // New makes a book (P6).
 func New() *Book { return nil }

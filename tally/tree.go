@@ -5,7 +5,7 @@ import "sync"
 // manyKeys is from how many keys on the halves of a range are summed at the same time: measured with 200 keys, lower bounds made Root slower, as the goroutines then have too little to do each.
 const manyKeys = 32
 
-// node is a node of the tree: a bare, a leaf or a *branch, by how many keys the table has in its range.
+// node is a node of the tree: a bare, a leaf or a *branch, by how many keys the table has in its range; in what a proof tells also an asideLeaf or an asidePair.
 type node interface {
 	keyCount() int
 }
@@ -15,6 +15,17 @@ type bare struct{}
 type leaf struct {
 	key   int
 	value string
+}
+
+// asideLeaf is a leaf of which a proof tells H of the value alone.
+type asideLeaf struct {
+	key   int
+	value Sum
+}
+
+// asidePair is a branch of which a proof tells the sums of its two nodes alone.
+type asidePair struct {
+	left, right Sum
 }
 
 // branch keeps its sum once that is reckoned: Z until then. (Were a sum Z itself, it would be reckoned again, to the same end.)
@@ -27,6 +38,11 @@ type branch struct {
 func (bare) keyCount() int { return 0 }
 
 func (leaf) keyCount() int { return 1 }
+
+func (asideLeaf) keyCount() int { return 1 }
+
+// keyCount of an asidePair is the least that it may be: a proof doesn't tell how many keys it has, only that they are more than one.
+func (asidePair) keyCount() int { return 2 }
 
 func (b *branch) keyCount() int { return b.count }
 
@@ -47,6 +63,10 @@ func allKeys() span {
 func (s span) halves() (span, span) {
 	half := s.size / 2
 	return span{s.low, half}, span{s.low + half, half}
+}
+
+func (s span) has(key int) bool {
+	return s.low <= key && key < s.low+s.size
 }
 
 // plant makes the tree of a range from its entries, which are in order. It ends, as a range of one key has at most one entry.
@@ -74,6 +94,10 @@ func sumOf(n node) Sum {
 	switch n := n.(type) {
 	case leaf:
 		return leafSum(n.key, Hash(n.value))
+	case asideLeaf:
+		return leafSum(n.key, n.value)
+	case asidePair:
+		return pairSum(n.left, n.right)
 	case *branch:
 		if n.kept == (Sum{}) {
 			n.kept = pairSum(sumHalves(n))
@@ -108,4 +132,21 @@ func leafSum(key int, value Sum) Sum {
 
 func pairSum(left, right Sum) Sum {
 	return Hash("\x01" + string(left[:]) + string(right[:]))
+}
+
+// valueAt is what a tree tells of a key: the empty value, if there is none.
+func valueAt(n node, within span, key int) string {
+	switch n := n.(type) {
+	case leaf:
+		if n.key == key {
+			return n.value
+		}
+	case *branch:
+		lower, upper := within.halves()
+		if lower.has(key) {
+			return valueAt(n.left, lower, key)
+		}
+		return valueAt(n.right, upper, key)
+	}
+	return ""
 }
