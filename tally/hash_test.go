@@ -3,6 +3,7 @@ package tally
 import (
 	"crypto/sha256"
 	"encoding/hex"
+	"math/big"
 	"strings"
 	"testing"
 )
@@ -50,14 +51,70 @@ func TestHashOfLongTexts(t *testing.T) {
 	}
 }
 
-func TestConstantsOfHash(t *testing.T) {
+// fraction is the first 32 bits behind the point of the root of n of a degree: a search in numbers of any length, unlike the program's.
+func fraction(n, degree int) uint32 {
+	scaled := new(big.Int).Lsh(big.NewInt(int64(n)), uint(32*degree))
+	root := new(big.Int)
+	for bit := 64; bit >= 0; bit-- {
+		root.SetBit(root, bit, 1)
+		if new(big.Int).Exp(root, big.NewInt(int64(degree)), nil).Cmp(scaled) > 0 {
+			root.SetBit(root, bit, 0)
+		}
+	}
+	return uint32(root.Uint64())
+}
+
+func firstPrimes(count int) []int {
+	var primes []int
+	for n := 2; len(primes) < count; n++ {
+		if big.NewInt(int64(n)).ProbablyPrime(20) {
+			primes = append(primes, n)
+		}
+	}
+	return primes
+}
+
+func TestConstantsOfHashComeFromTheFirstPrimes(t *testing.T) {
+	start := startState()
+	for i, prime := range firstPrimes(len(start)) {
+		if want := fraction(prime, 2); start[i] != want {
+			t.Errorf("P2: word %d that H starts from is %x, want %x, of the prime %d", i, start[i], want, prime)
+		}
+	}
+	for i, prime := range firstPrimes(len(roundConstants)) {
+		if want := fraction(prime, 3); roundConstants[i] != want {
+			t.Errorf("P2: H's constant of round %d is %x, want %x, of the prime %d", i, roundConstants[i], want, prime)
+		}
+	}
+}
+
+// The numbers as FIPS 180-4 prints them, against an error that both ways of reckoning have.
+func TestConstantsOfHashAreThePrintedOnes(t *testing.T) {
 	wantStart := hashState{0x6a09e667, 0xbb67ae85, 0x3c6ef372, 0xa54ff53a, 0x510e527f, 0x9b05688c, 0x1f83d9ab, 0x5be0cd19}
-	if constants.start != wantStart {
-		t.Errorf("P2: H starts from %x, want %x", constants.start, wantStart)
+	if startState() != wantStart {
+		t.Errorf("P2: H starts from %x, want %x", startState(), wantStart)
 	}
 	for i, want := range map[int]uint32{0: 0x428a2f98, 1: 0x71374491, 31: 0x14292967, 32: 0x27b70a85, 62: 0xbef9a3f7, 63: 0xc67178f2} {
-		if constants.rounds[i] != want {
-			t.Errorf("P2: H's constant %d is %x, want %x", i, constants.rounds[i], want)
+		if roundConstants[i] != want {
+			t.Errorf("P2: H's constant %d is %x, want %x", i, roundConstants[i], want)
+		}
+	}
+}
+
+// What init holds the constants against must itself tell the right number, or it would refuse right constants or pass wrong ones.
+func TestReckoningOfConstants(t *testing.T) {
+	for _, prime := range firstPrimes(64) {
+		n := uint64(prime)
+		if !isPrime(n) {
+			t.Errorf("P2: %d is no prime to init", prime)
+		}
+		if prime < 64 { // a square root below 8
+			if got, want := rootFraction(func(x uint64) bool { return squareIsBelow(x, n) }), fraction(prime, 2); got != want {
+				t.Errorf("P2: the square root of %d goes on with %x, want %x", prime, got, want)
+			}
+		}
+		if got, want := rootFraction(func(x uint64) bool { return cubeIsBelow(x, n) }), fraction(prime, 3); got != want {
+			t.Errorf("P2: the cube root of %d goes on with %x, want %x", prime, got, want)
 		}
 	}
 }
