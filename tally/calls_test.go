@@ -18,19 +18,45 @@ func TestNumbersOfErrors(t *testing.T) {
 	}
 }
 
-// callsOn is what the calls answer of a table, in one text; want, what they must answer by the document's words.
+// The other tests take the limits by their names: hence the numbers themselves here.
+func TestLimits(t *testing.T) {
+	for _, x := range []struct {
+		name        string
+		limit, want int
+	}{
+		{"MaxKey", maxKey, 65535}, {"MaxValue", maxValue, 20}, {"MaxEntries", maxEntries, 200},
+		{"MaxKeys", maxKeys, 20}, {"MaxVersions", maxVersions, 100},
+	} {
+		if x.limit != x.want {
+			t.Errorf("%s is %d, want %d", x.name, x.limit, x.want)
+		}
+	}
+}
+
+// callsOn is what the calls answer of a table, and of a book that is made of it, in one text; want, what they must answer by the document's words.
 func callsOn(table []Entry, keys []int, changes []Entry) (got, want string) {
 	root, e1 := Root(table)
 	proof, e2 := Prove(table, keys)
 	isProof := Verify(root, proof, keys, valuesIn(table, keys))
 	behind, e3 := Update(root, proof, changes)
 	got = fmt.Sprintf("%x %d %x %d %v %x %d", root, e1, proof, e2, isProof, behind, e3)
-	want = fmt.Sprintf("%x 0 %x 0 true %x 0", wantedSum(table, 0, maxKey), wantedProof(table, keys, 0, maxKey), wantedSum(tableBehind(table, changes), 0, maxKey))
+	sum, sumBehind := wantedSum(table, 0, maxKey), wantedSum(tableBehind(table, changes), 0, maxKey)
+	proofText := wantedProof(table, keys, 0, maxKey)
+	want = fmt.Sprintf("%x 0 %x 0 true %x 0", sum, proofText, sumBehind)
+
+	book := New()
+	book.Set(table...)
+	book.Set(changes...)
+	newer, e4 := book.Root(2)
+	older, e5 := book.Root(1)
+	proof, e6 := book.Prove(1, keys...)
+	got += fmt.Sprintf(" %x %d %x %d %x %d", newer, e4, older, e5, proof, e6)
+	want += fmt.Sprintf(" %x 0 %x 0 %x 0", sumBehind, sum, proofText)
 	return got, want
 }
 
 func TestAnswersHangOnNoSchedule(t *testing.T) {
-	table := evenTable(0, 300, maxEntries)
+	table := evenTable(0, 300, maxEntries-5)
 	keys := []int{0, 299, 600, 30000, maxKey}
 	changes := []Entry{{0, ""}, {299, "a"}, {600, "b"}, {30000, ""}, {maxKey, "c"}}
 	for _, processors := range []int{1, 2, 8} {
@@ -46,11 +72,11 @@ func TestAnswersHangOnNoSchedule(t *testing.T) {
 
 // The calls run beside each other on lists of their own and on one that they share.
 func TestCallsAtTheSameTime(t *testing.T) {
-	shared := evenTable(7, 200, maxEntries)
+	shared := evenTable(7, 200, maxEntries-5)
 	var callers sync.WaitGroup
 	for i := range 16 {
 		callers.Go(func() {
-			own := evenTable(i, 100+i, maxEntries)
+			own := evenTable(i, 100+i, maxEntries-5)
 			keys := []int{i, 5000 + i, 40000}
 			changes := []Entry{{i, ""}, {5000 + i, "a"}, {40000, "b"}}
 			for range 5 {
@@ -93,21 +119,26 @@ func TestNoListOrNumberPanics(t *testing.T) {
 			entries = append(entries, Entry{number, value})
 		}
 	}
-	book := New()
 	for first := range entries {
 		for end := first; end <= len(entries); end++ {
 			list := entries[first:end]
 			Root(list)
 			Prove(list, keysOf(list))
 			Update(Sum{}, "\x05", list)
+			book := New()
+			book.Set(list...)
+			book.Prove(1, keysOf(list)...)
 		}
 		key, value := entries[first].Key, entries[first].Value
 		Hash(value)
 		Verify(Sum{}, value, []int{key}, []string{value})
+		book := New()
 		book.Set(entries[first])
-		book.Get(key, key)
-		book.Root(key)
-		book.Prove(key, key)
+		for _, version := range numbers {
+			book.Get(version, key)
+			book.Root(version)
+			book.Prove(version, key)
+		}
 	}
 }
 

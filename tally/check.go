@@ -1,10 +1,11 @@
 package tally
 
 const (
-	maxKey     = 65535
-	maxValue   = 20  // bytes
-	maxEntries = 200 // of a call
-	maxKeys    = 20  // of a proof
+	maxKey      = 65535
+	maxValue    = 20  // bytes
+	maxEntries  = 200 // of a call
+	maxKeys     = 20  // of a proof
+	maxVersions = 100 // behind version 0
 )
 
 // checkTable answers the error of Root that is named first: hence a pass over the whole list for each of them.
@@ -56,7 +57,7 @@ func keysOf(entries []Entry) []int {
 
 func checkKeys(keys []int) Errno {
 	for _, key := range keys {
-		if key < 0 || key > maxKey {
+		if !isKey(key) {
 			return ErrKey
 		}
 	}
@@ -66,4 +67,8 @@ func checkKeys(keys []int) Errno {
 		}
 	}
 	return OK
+}
+
+func isKey(key int) bool {
+	return 0 <= key && key <= maxKey
 }

@@ -23,9 +23,6 @@ type Entry struct {
 	Value string
 }
 
-// Book is tables by versions. Make it by New.
-type Book struct{}
-
 // Root is a table's sum (P2).
 func Root(table []Entry) (Sum, Errno) {
 	if e := checkTable(table); e != OK {
@@ -39,10 +36,14 @@ func Prove(table []Entry, keys []int) (string, Errno) {
 	if e := checkTable(table); e != OK {
 		return "", e
 	}
+	return proveTree(plant(table, allKeys()), keys)
+}
+
+// proveTree is what Prove of a table and of a book's version have in common.
+func proveTree(tree node, keys []int) (string, Errno) {
 	if e := checkProofKeys(keys); e != OK {
 		return "", e
 	}
-	tree := plant(table, allKeys())
 	return string(tellNode(nil, tree, allKeys(), setOf(keys))), OK
 }
 
@@ -80,21 +81,5 @@ func Update(root Sum, proof string, changes []Entry) (Sum, Errno) {
 	if !ok {
 		return Sum{}, ErrProof
 	}
-	entries := changed(toldEntries(nil, tree), changes)
-	return sumOf(regrow(tree, allKeys(), setOf(keys), entries)), OK
+	return sumOf(regrow(tree, allKeys(), setOf(keys), changed(tree, changes))), OK
 }
-
-// New makes a book (P6).
-func New() *Book { return nil }
-
-// Set makes the next version (P6).
-func (b *Book) Set(changes ...Entry) (int, Errno) { return 0, 0 }
-
-// Get tells a value (P6).
-func (b *Book) Get(version int, key int) (string, Errno) { return "", 0 }
-
-// Root tells a version's sum (P6).
-func (b *Book) Root(version int) (Sum, Errno) { return Sum{}, 0 }
-
-// Prove proves what a version has (P6).
-func (b *Book) Prove(version int, keys ...int) (string, Errno) { return "", 0 }

@@ -8,6 +8,8 @@ const manyKeys = 32
 // node is a node of the tree: a bare, a leaf or a *branch, by how many keys the table has in its range; in what a proof tells also an asideLeaf or an asidePair.
 type node interface {
 	keyCount() int
+	// eachEntry hands on the entries whose values are told: what stands aside has none.
+	eachEntry(visit func(Entry))
 }
 
 type bare struct{}
@@ -45,6 +47,19 @@ func (asideLeaf) keyCount() int { return 1 }
 func (asidePair) keyCount() int { return 2 }
 
 func (b *branch) keyCount() int { return b.count }
+
+func (bare) eachEntry(func(Entry)) {}
+
+func (l leaf) eachEntry(visit func(Entry)) { visit(Entry{Key: l.key, Value: l.value}) }
+
+func (asideLeaf) eachEntry(func(Entry)) {}
+
+func (asidePair) eachEntry(func(Entry)) {}
+
+func (b *branch) eachEntry(visit func(Entry)) {
+	b.left.eachEntry(visit)
+	b.right.eachEntry(visit)
+}
 
 func newBranch(left, right node) *branch {
 	return &branch{left: left, right: right, count: left.keyCount() + right.keyCount()}
