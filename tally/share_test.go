@@ -73,3 +73,18 @@ func TestVersionsOfNoChangeShareTheTree(t *testing.T) {
 		}
 	}
 }
+
+// Asking would write the sums that Set had left out, and could not be done at the same time.
+func TestVersionsHaveTheirSums(t *testing.T) {
+	book := New()
+	set(t, book, 1, evenTable(0, 300, maxEntries)...)
+	set(t, book, 2, Entry{300, ""}, Entry{301, "n"})
+	branches := map[*branch]bool{}
+	branchesIn(branches, book.trees[1])
+	branchesIn(branches, book.trees[2])
+	for b := range branches {
+		if b.kept == (Sum{}) {
+			t.Errorf("a branch of %d keys has no sum behind Set", b.count)
+		}
+	}
+}
